@@ -440,6 +440,7 @@ func TestForget(t *testing.T) {
 		return api.Mark{Producer: producer, Seq: 1, Offset: offset}
 	}
 	trim := func(n uint64) func(p *api.Plan) { return func(p *api.Plan) { p.Channels[0].Trim = n } }
+	empty := func(p *api.Plan) { p.Channels[2].Trim, p.Ledgers[1].Last = 0, 0 }
 	left := func(first uint64, ids []uint64, seen ...api.Mark) func(p *api.Plan) {
 		return func(p *api.Plan) {
 			c := &p.Channels[0]
@@ -450,31 +451,45 @@ func TestForget(t *testing.T) {
 	rows(t, api.OpForget,
 		row{"two", nil, nil, api.Outcome{At: 8}, left(8, []uint64{5, 9}, good(8).Seen...)},
 		row{"two, no marks", of(5), nil, api.Outcome{At: 8}, left(8, []uint64{5, 9})},
-		row{"one, though two may go", of(4), nil, api.Outcome{At: 8}, left(8, []uint64{4, 5, 9})},
-		row{"none, though two may go", of(2), nil, api.Outcome{At: 5}, left(5, []uint64{2, 4, 5, 9})},
+		row{"one, though two go", of(4), nil, state, nil},
+		row{"none, though two go", of(2), nil, state, nil},
 		row{"one with an entry that stays", of(9), nil, state, nil},
 		row{"three", of(9, mark(1, 8)), trim(9), api.Outcome{At: 9}, left(9, []uint64{9}, mark(1, 8))},
+		row{"two, though three go", of(5), trim(9), state, nil},
+		row{"one, though three go", of(4), trim(9), state, nil},
+		row{"all, though the last one is open", of(0), trim(9), state, nil},
 		row{"an open one", of(0), trim(17), state, nil},
 		row{"all", of(0, mark(1, 8)), both(shut, trim(9)), api.Outcome{At: 9}, left(9, nil, mark(1, 8))},
+		row{"the last one that goes, which has no entries, though all go", of(9), both(shut, trim(9)), state, nil},
+		row{"the last one but one, though all go", of(5), both(shut, trim(9)), state, nil},
+		row{"the first one, though all go", of(2), both(shut, trim(9)), state, nil},
 		row{"all, one with an entry that stays", of(0), shut, state, nil},
+		row{"none, as entries stay in part", of(2), trim(7), api.Outcome{At: 5}, left(5, []uint64{2, 4, 5, 9})},
 		row{"entries that stay in part", of(4), trim(7), state, nil},
 		row{"entries that stay, and one that has none", of(5), trim(7), state, nil},
-		row{"none that may go", of(2), trim(5), api.Outcome{At: 5}, left(5, []uint64{2, 4, 5, 9})},
+		row{"none that goes", of(2), trim(5), api.Outcome{At: 5}, left(5, []uint64{2, 4, 5, 9})},
 		row{"a ledger that is not there", of(7), nil, state, nil},
 		row{"another channel's", of(3), nil, state, nil},
 		row{"beyond all", of(top), both(shut, trim(9)), state, nil},
 		row{"a mark at the first offset", of(5, mark(1, 8)), nil, state, nil},
 		row{"a mark behind it", of(5, mark(1, 4), mark(2, top)), nil, state, nil},
 		row{"the widest mark", of(5, mark(1, 4), mark(2, math.MaxUint64)), nil, state, nil},
-		row{"a mark below the last first offset", of(2, mark(1, 4)), nil, api.Outcome{At: 5}, left(5, []uint64{2, 4, 5, 9}, mark(1, 4))},
-		row{"a mark at the last first offset", of(2, mark(1, 5)), nil, state, nil},
+		row{"a mark below the last first offset", of(2, mark(1, 4)), trim(5), api.Outcome{At: 5}, left(5, []uint64{2, 4, 5, 9}, mark(1, 4))},
+		row{"a mark at the last first offset", of(2, mark(1, 5)), trim(5), state, nil},
 		row{"six marks", of(5, mark(1, 7), mark(2, 6), mark(3, 5), mark(5, 4), mark(6, 0), mark(15, 1)), nil, api.Outcome{At: 8}, left(8, []uint64{5, 9}, mark(1, 7), mark(2, 6), mark(3, 5), mark(5, 4), mark(6, 0), mark(15, 1))},
 		row{"nobody's", func(o *api.Op) { o.Channel, o.Epoch, o.Ledger, o.Seen = 2, 0, 0, nil }, nil, api.Outcome{}, nil},
+		row{"nobody's, a ledger", func(o *api.Op) { o.Channel, o.Epoch, o.Ledger, o.Seen = 2, 0, 2, nil }, nil, state, nil},
 		row{"nobody's, a mark", func(o *api.Op) { o.Channel, o.Epoch, o.Ledger, o.Seen = 2, 0, 0, []api.Mark{mark(1, 0)} }, nil, state, nil},
 		row{"the third channel's", func(o *api.Op) { o.Channel, o.Epoch, o.Ledger = 3, 1, 0 }, nil, api.Outcome{At: 8}, func(p *api.Plan) {
 			p.Channels[2].First, p.Channels[2].Ledgers, p.Channels[2].Seen = 8, nil, good(8).Seen
 			p.Ledgers = slices.Delete(p.Ledgers, 1, 2)
 		}},
+		row{"a first one without entries goes", func(o *api.Op) { o.Channel, o.Epoch, o.Ledger, o.Seen = 3, 1, 0, nil }, empty, api.Outcome{}, func(p *api.Plan) {
+			p.Channels[2].Ledgers = nil
+			p.Ledgers = slices.Delete(p.Ledgers, 1, 2)
+		}},
+		row{"a first one without entries, as if it stayed", func(o *api.Op) { o.Channel, o.Epoch, o.Ledger, o.Seen = 3, 1, 3, nil }, empty, state, nil},
+		row{"the third channel's, as if it stayed", func(o *api.Op) { o.Channel, o.Epoch, o.Ledger, o.Seen = 3, 1, 3, nil }, nil, state, nil},
 	)
 }
 

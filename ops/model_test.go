@@ -276,20 +276,28 @@ func written(p api.Plan, c *api.Channel, l *api.Ledger, o api.Op) (api.Plan, api
 	return p, out
 }
 
+// stays tells the first ledger of a channel that is open, or has entries that stay; 0: none is.
+func stays(p api.Plan, c api.Channel) uint64 {
+	first := c.First
+	for _, id := range c.Ledgers {
+		l := p.Ledgers[at(p, id)]
+		if first += l.Last; l.Closed == 0 || first > c.Trim {
+			return id
+		}
+	}
+	return 0
+}
+
 // forgotten does OpForget.
 func forgotten(p api.Plan, c *api.Channel, o api.Op) (api.Plan, api.Outcome) {
+	if o.Ledger != stays(p, *c) {
+		return p, api.Outcome{Code: 5}
+	}
 	for len(c.Ledgers) > 0 && c.Ledgers[0] != o.Ledger {
 		i := at(p, c.Ledgers[0])
-		l := p.Ledgers[i]
-		if l.Closed == 0 || c.First+l.Last > c.Trim {
-			return p, api.Outcome{Code: 5}
-		}
-		c.First += l.Last
+		c.First += p.Ledgers[i].Last
 		c.Ledgers = c.Ledgers[1:]
 		p.Ledgers = append(p.Ledgers[:i], p.Ledgers[i+1:]...)
-	}
-	if len(c.Ledgers) == 0 && o.Ledger != 0 {
-		return p, api.Outcome{Code: 5}
 	}
 	for _, m := range o.Seen {
 		if m.Offset >= c.First {
@@ -544,8 +552,8 @@ func drawOp(d *rand.Rand, p api.Plan) api.Op {
 		if len(c.Ledgers) > 0 && d.IntN(8) > 0 {
 			o.Ledger = one(d, one(d, c.Ledgers...), c.Ledgers[len(c.Ledgers)-1])
 		}
-		if o.Kind == 8 && d.IntN(3) == 0 {
-			o.Ledger = 0
+		if o.Kind == 8 && d.IntN(3) > 0 {
+			o.Ledger = stays(p, c)
 		}
 	}
 	if has("Now") {

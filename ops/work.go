@@ -183,32 +183,29 @@ func (w *work) trim() api.Outcome {
 	return api.Outcome{At: c.Trim}
 }
 
-// ahead tells how many ledgers of the channel stand ahead of the one that is named, and the offset behind them; false: one of them may not go, or it is not the channel's.
-func (w *work) ahead() (int, uint64, bool) {
-	c, id := w.channel(), w.op.Ledger
-	n := len(c.Ledgers)
-	if id != 0 {
-		n = slices.Index(c.Ledgers, id)
-	}
-	if n < 0 {
-		return 0, 0, false
-	}
+// gone tells how many ledgers of the channel, from its first one on, are closed with all their entries below the trim point, and the offset behind them.
+func (w *work) gone() (int, uint64) {
+	c := w.channel()
 	first := c.First
-	for _, gone := range c.Ledgers[:n] {
-		l, _ := plan.Find(w.Plan, gone)
-		first += l.Last
-		if l.Closed == 0 || first > c.Trim {
-			return 0, 0, false
+	for i, id := range c.Ledgers {
+		l, _ := plan.Find(w.Plan, id)
+		if l.Closed == 0 || first+l.Last > c.Trim {
+			return i, first
 		}
+		first += l.Last
 	}
-	return n, first, true
+	return len(c.Ledgers), first
 }
 
-// forget has the ledgers ahead of the one that is named be no more.
+// forget has the ledgers that may go be no more. Who asks for that names the first one that stays, as its marks are those of just the ledgers that go.
 func (w *work) forget() api.Outcome {
 	c, o := w.channel(), w.op
-	n, first, ok := w.ahead()
-	if !ok || slices.ContainsFunc(o.Seen, func(m api.Mark) bool { return m.Offset >= first }) {
+	n, first := w.gone()
+	var stays uint64
+	if n < len(c.Ledgers) {
+		stays = c.Ledgers[n]
+	}
+	if o.Ledger != stays || slices.ContainsFunc(o.Seen, func(m api.Mark) bool { return m.Offset >= first }) {
 		return api.Outcome{Code: api.ErrState}
 	}
 	w.Ledgers = slices.DeleteFunc(w.Ledgers, func(l api.Ledger) bool { return slices.Contains(c.Ledgers[:n], l.Id) })
